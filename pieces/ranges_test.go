@@ -67,10 +67,19 @@ func TestRangesAtRandom(t *testing.T) {
 	}
 }
 
-// TestSmallRanges: P18.1 to P18.3, all ranges of up to two blocks and more, from all bytes of the first two on.
+// TestSmallRanges: P18.1 to P18.3, all ranges of up to two blocks and some more, from each byte of the first block and the first ones of the second on.
 func TestSmallRanges(t *testing.T) {
+	for off := range uint64(block + 3) {
+		for n := range uint64(2*block + 3) {
+			alike(t, stretch{off, n})
+		}
+	}
+}
+
+// TestLongerRanges: P18.1 to P18.3, from the second block on, too, and over three of them.
+func TestLongerRanges(t *testing.T) {
 	for off := range uint64(2*block + 3) {
-		for _, n := range beside(1, 2, 100, block-1, block+1, 300, 2*block-1, 2*block+1, 3*block) {
+		for _, n := range beside(2*block+1, 3*block, 3*block+100, 4*block) {
 			alike(t, stretch{off, n})
 		}
 	}
